@@ -7,23 +7,12 @@ import (
 
 	"turnpike/api"
 	"turnpike/script"
+	"turnpike/spare"
 )
 
-const spare = 40
+func withSpare(p []byte) (list, all []byte) { return spare.List(p, 0xa5) }
 
-// withSpare is a list of p with bytes in the spare room behind it, and all of that room.
-func withSpare(p []byte) (list, room []byte) {
-	room = slices.Concat(p, bytes.Repeat([]byte{0xa5}, spare))
-	return room[:len(p)], room
-}
-
-// fill writes over a list and over the spare room behind it.
-func fill(p []byte) {
-	p = p[:cap(p)]
-	for i := range p {
-		p[i] = 0x5a
-	}
-}
+func fill(p []byte) { spare.Fill(p, 0x5a) }
 
 // fillSteps writes over steps, their data, and the spare room behind all of them.
 func fillSteps(l []script.Step) {
@@ -34,15 +23,14 @@ func fillSteps(l []script.Step) {
 	}
 }
 
-// stepsWithSpare: the same steps, with spare room behind the list and behind each one's data, and the rooms.
-func stepsWithSpare(l []script.Step) (list, room []script.Step, rooms [][]byte) {
-	for _, s := range l {
-		data, all := withSpare(s.Data)
-		s.Data = data
-		room, rooms = append(room, s), append(rooms, all)
+// stepsWithSpare: the same steps, with spare room behind the list and behind each one's data; all of the list's memory, and of each data's.
+func stepsWithSpare(l []script.Step) (list, all []script.Step, rooms [][]byte) {
+	list, all = spare.List(l, script.Step{Op: 9, Data: []byte("spare")})
+	for i := range list {
+		data, room := withSpare(list[i].Data)
+		list[i].Data, rooms = data, append(rooms, room)
 	}
-	room = append(room, script.Step{Op: 9, Data: []byte("spare")}, script.Step{Op: 99})
-	return room[:len(l):len(room)], room, rooms
+	return list, all, rooms
 }
 
 // P2.5: bytes that are handed in are not changed, nor the spare room behind them.

@@ -6,24 +6,13 @@ import (
 	"testing"
 
 	"turnpike/api"
+	"turnpike/spare"
 	"turnpike/sum"
 )
 
-const spare = 40
+func withSpare(p []byte) (list, all []byte) { return spare.List(p, 0xa5) }
 
-// withSpare is a list of p with bytes in the spare room behind it, and all of that room.
-func withSpare(p []byte) (list, room []byte) {
-	room = slices.Concat(p, bytes.Repeat([]byte{0xa5}, spare))
-	return room[:len(p)], room
-}
-
-// fill writes over a list and over the spare room behind it.
-func fill(p []byte) {
-	p = p[:cap(p)]
-	for i := range p {
-		p[i] = 0x5a
-	}
-}
+func fill(p []byte) { spare.Fill(p, 0x5a) }
 
 // P1.8: nothing that is handed in is changed, nor the spare room behind it.
 func TestHandedInIsNotChanged(t *testing.T) {

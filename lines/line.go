@@ -4,6 +4,7 @@ import (
 	"strings"
 
 	"turnpike/api"
+	"turnpike/words"
 )
 
 // noPlain: what a plain scalar does not begin with (a blank, as those ahead of it are no part of it).
@@ -133,14 +134,10 @@ func keyOf(s string) (text string, size int, is bool) {
 // nameSize: how many of the first bytes of s may be a name's. (Of a longer name it is no more than MaxName: no colon stands there.)
 func nameSize(s string) int {
 	n := 0
-	for n < min(len(s), api.MaxName) && inName(s[n]) {
+	for n < min(len(s), api.MaxName) && words.InName(s[n]) {
 		n++
 	}
 	return n
-}
-
-func inName(c byte) bool {
-	return c >= 'a' && c <= 'z' || c >= 'A' && c <= 'Z' || c >= '0' && c <= '9' || c == '_' || c == '-' || c == '.'
 }
 
 // plain: the plain scalar that stands from the beginning of s on, up to a line's end; no text, if there is none.

@@ -1,6 +1,10 @@
 package paths
 
-import "turnpike/api"
+import (
+	"strings"
+
+	"turnpike/api"
+)
 
 // every is the pattern of each sort that takes all; anyBelow stands ahead of a host in a pattern.
 const (
@@ -24,6 +28,12 @@ func isMadeOf(s string, such func(byte) bool) bool {
 	return s != ""
 }
 
+// isBegun: whether the pattern of paths ends with a '*', and s begins with what stands ahead of it.
+func isBegun(pattern, s string) bool {
+	begin, open := strings.CutSuffix(pattern, every)
+	return open && strings.HasPrefix(s, begin)
+}
+
 func inHost(c byte) bool {
 	return isGreat(c) || c >= 'a' && c <= 'z' || c >= '0' && c <= '9' || c == '-' || c == '.'
 }
@@ -31,3 +41,10 @@ func inHost(c byte) bool {
 func inPath(c byte) bool { return c >= 33 && c <= 126 }
 
 func isGreat(c byte) bool { return c >= 'A' && c <= 'Z' }
+
+func small(c byte) byte {
+	if isGreat(c) {
+		return c - 'A' + 'a'
+	}
+	return c
+}
